@@ -1,0 +1,88 @@
+// Package depot: blobs by their sums, for many who ask at once: see DOC.md.
+package depot
+
+import (
+	"slices"
+
+	"depot/api"
+	"depot/names"
+	"depot/shard"
+)
+
+// Depot keeps blobs and actions.
+type Depot struct {
+	shards []*shard.Shard
+}
+
+// Name tells a blob's name (P3).
+func Name(blob string) (string, api.Errno) {
+	if tooLong(blob) {
+		return "", api.ErrLong
+	}
+	return names.Of(blob), api.OK
+}
+
+func tooLong(blob string) bool { return len(blob) > api.MaxBlob }
+
+// New makes a depot (P3).
+func New(c api.Config) (*Depot, api.Errno) {
+	if c.Shards < 1 || c.Shards > api.MaxShards || c.Room < 1 || c.Room > api.MaxRoom {
+		return nil, api.ErrConfig
+	}
+	d := &Depot{}
+	for range c.Shards {
+		d.shards = append(d.shards, shard.New(c.Room))
+	}
+	return d, api.OK
+}
+
+// Open opens a connection (P6).
+func (d *Depot) Open() (int, api.Errno) { return 0, api.OK }
+
+// Feed gives a connection bytes (P6).
+func (d *Depot) Feed(conn int, bytes string) api.Errno { return api.OK }
+
+// Pick lets a connection take a step (P7).
+func (d *Depot) Pick(conn int) (int, api.Errno) { return 0, api.OK }
+
+// Serve lets connections take steps in turn (P11).
+func (d *Depot) Serve(steps int, stop int) int { return 0 }
+
+// Take takes bytes that go out (P6).
+func (d *Depot) Take(conn int, most int) (string, api.Errno) { return "", api.OK }
+
+// Close closes a connection (P6).
+func (d *Depot) Close(conn int) api.Errno { return api.OK }
+
+// Tick lets the time go on (P10).
+func (d *Depot) Tick(n int) api.Errno { return api.OK }
+
+// Bulk stores blobs (P4).
+func (d *Depot) Bulk(blobs []string) ([]int, api.Errno) {
+	if len(blobs) > api.MaxBulk {
+		return nil, api.ErrMany
+	}
+	if slices.ContainsFunc(blobs, tooLong) {
+		return nil, api.ErrLong
+	}
+	lots := d.sortOut(blobs)
+	d.storeAll(lots)
+	return gather(lots, len(blobs)), api.OK
+}
+
+// Ring tells a shard's blobs (P5).
+func (d *Depot) Ring(shard int) ([]api.Slot, api.Errno) {
+	if shard < 0 || shard >= len(d.shards) {
+		return nil, api.ErrArg
+	}
+	return d.shards[shard].Slots(), api.OK
+}
+
+// Look tells how the depot is (P5).
+func (d *Depot) Look() api.View {
+	bytes := make([]int, len(d.shards))
+	for k, s := range d.shards {
+		bytes[k] = s.Held()
+	}
+	return api.View{Bytes: bytes}
+}
