@@ -91,6 +91,24 @@ func TestDepotsAreApart(t *testing.T) {
 	}
 }
 
+func TestConnectionsOfDepotsAreApart(t *testing.T) {
+	a, b := talk(t, 1, 10, 1), talk(t, 1, 10, 1)
+	bulk(t, a, []int{1}, "aaaa")
+	bulk(t, b, []int{1}, "aaaa")
+	ask(t, a, 0, api.Find, "\x05"+list(t, "aaaa"), 1, "\x01\x00\x00\x00\x01\x01\x01")
+	ask(t, a, 0, api.Put, "key1\x02hi", 1, "")
+	tick(t, a, 1)
+	feed(t, a, 0, "\x00\x00", api.OK)
+	pick(t, a, 0, "4")
+	look(t, a, 1, 1, 1, 1)
+	look(t, b, 0, 0, 0, 1)
+	check(t, b, 0, "aaaa")
+	pick(t, b, 0, "0")
+	take(t, b, 0, "")
+	ask(t, b, 0, api.Get, "key1", 1, "\x00")
+	ask(t, b, 0, api.Find, "\x05"+list(t, "aaaa"), 1, "\x01\x00\x00\x00\x01\x01\x01")
+}
+
 // someBlobs gives up to MaxBulk blobs, of which many come again.
 func someBlobs(r *rand.Rand) []string {
 	blobs := make([]string, r.Intn(api.MaxBulk+1))

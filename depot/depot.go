@@ -4,14 +4,21 @@ package depot
 import (
 	"slices"
 
+	"depot/action"
 	"depot/api"
+	"depot/conn"
+	"depot/lease"
 	"depot/names"
 	"depot/shard"
 )
 
 // Depot keeps blobs and actions.
 type Depot struct {
-	shards []*shard.Shard
+	shards  []*shard.Shard
+	conns   []*conn.Conn
+	leases  lease.Book
+	actions action.Book
+	now     int
 }
 
 // Name tells a blob's name (P3).
@@ -37,25 +44,70 @@ func New(c api.Config) (*Depot, api.Errno) {
 }
 
 // Open opens a connection (P6).
-func (d *Depot) Open() (int, api.Errno) { return 0, api.OK }
+func (d *Depot) Open() (int, api.Errno) {
+	if len(d.conns) >= api.MaxConns {
+		return 0, api.ErrMany
+	}
+	d.conns = append(d.conns, &conn.Conn{})
+	return len(d.conns) - 1, api.OK
+}
 
 // Feed gives a connection bytes (P6).
-func (d *Depot) Feed(conn int, bytes string) api.Errno { return api.OK }
+func (d *Depot) Feed(conn int, bytes string) api.Errno {
+	c, e := d.openConn(conn)
+	if e != api.OK {
+		return e
+	}
+	if !c.Feed(bytes) {
+		return api.ErrLong
+	}
+	return api.OK
+}
 
 // Pick lets a connection take a step (P7).
-func (d *Depot) Pick(conn int) (int, api.Errno) { return 0, api.OK }
+func (d *Depot) Pick(conn int) (int, api.Errno) {
+	c, e := d.anyConn(conn)
+	if e != api.OK {
+		return api.None, e
+	}
+	return d.step(c), api.OK
+}
 
 // Serve lets connections take steps in turn (P11).
 func (d *Depot) Serve(steps int, stop int) int { return 0 }
 
 // Take takes bytes that go out (P6).
-func (d *Depot) Take(conn int, most int) (string, api.Errno) { return "", api.OK }
+func (d *Depot) Take(conn int, most int) (string, api.Errno) {
+	c, e := d.anyConn(conn)
+	if e != api.OK {
+		return "", e
+	}
+	if most < 0 {
+		return "", api.ErrArg
+	}
+	return c.Take(most), api.OK
+}
 
 // Close closes a connection (P6).
-func (d *Depot) Close(conn int) api.Errno { return api.OK }
+func (d *Depot) Close(conn int) api.Errno {
+	c, e := d.openConn(conn)
+	if e != api.OK {
+		return e
+	}
+	d.drop(c)
+	c.Close()
+	return api.OK
+}
 
 // Tick lets the time go on (P10).
-func (d *Depot) Tick(n int) api.Errno { return api.OK }
+func (d *Depot) Tick(n int) api.Errno {
+	if n < 0 || n > api.MaxTick {
+		return api.ErrArg
+	}
+	d.now += n
+	d.unpin(d.leases.EndDue(d.now))
+	return api.OK
+}
 
 // Bulk stores blobs (P4).
 func (d *Depot) Bulk(blobs []string) ([]int, api.Errno) {
@@ -84,5 +136,11 @@ func (d *Depot) Look() api.View {
 	for k, s := range d.shards {
 		bytes[k] = s.Held()
 	}
-	return api.View{Bytes: bytes}
+	return api.View{
+		Now:     d.now,
+		Leases:  d.leases.Count(),
+		Actions: d.actions.Count(),
+		Conns:   len(d.conns),
+		Bytes:   bytes,
+	}
 }

@@ -46,14 +46,16 @@ func ring(t *testing.T, d *depot.Depot, shard int) []api.Slot {
 	return l
 }
 
-// check holds a ring against words, those of marked blobs with a * behind them.
+// check holds a ring against words, those of marked blobs with a * behind them,
+// and behind this a ! for each pin.
 func check(t *testing.T, d *depot.Depot, shard int, words ...string) {
 	t.Helper()
 	var want []api.Slot
 	bytes := 0
 	for _, w := range words {
-		blob, marked := strings.CutSuffix(w, "*")
-		want = append(want, api.Slot{Name: nameOf(t, blob), Marked: marked})
+		rest := strings.TrimRight(w, "!")
+		blob, marked := strings.CutSuffix(rest, "*")
+		want = append(want, api.Slot{Name: nameOf(t, blob), Marked: marked, Pins: len(w) - len(rest)})
 		bytes += len(blob)
 	}
 	if got := ring(t, d, shard); !slices.Equal(got, want) {

@@ -3,6 +3,7 @@ package names
 
 import (
 	"depot/api"
+	"depot/numbers"
 	"depot/sum"
 )
 
@@ -13,9 +14,14 @@ const lengthSize = api.NameSize - api.SumSize
 func Of(blob string) string {
 	s := sum.Of(blob)
 	out := make([]byte, 0, api.NameSize)
-	out = append(out, byte(len(blob)>>8), byte(len(blob)))
+	out = numbers.Append(out, len(blob), lengthSize)
 	out = append(out, s[:]...)
 	return string(out)
+}
+
+// Length tells how long the blob of this name is.
+func Length(name string) int {
+	return numbers.Of(name[:lengthSize])
 }
 
 // Shard tells to which of so many shards a name belongs.

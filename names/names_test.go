@@ -38,3 +38,14 @@ func TestShardOfEachByte(t *testing.T) {
 		}
 	}
 }
+
+func TestLength(t *testing.T) {
+	for _, n := range []int{0, 1, 120} {
+		if got := Length(Of(strings.Repeat("x", n))); got != n {
+			t.Errorf("the name of %d bytes tells %d", n, got)
+		}
+	}
+	if got := Length("\xff\x79" + strings.Repeat("s", 32)); got != 0xff79 {
+		t.Errorf("the length of a name that is none: %d", got)
+	}
+}

@@ -52,6 +52,19 @@ func (s *Shard) lookAtNext() {
 	}
 }
 
+// Holds tells if the blob of this name is held.
+func (s *Shard) Holds(name string) bool { return s.find(name) >= 0 }
+
+// Read marks the blob of this name and tells its bytes; false, if it is not held.
+func (s *Shard) Read(name string) (string, bool) {
+	i := s.find(name)
+	if i < 0 {
+		return "", false
+	}
+	s.blobs[i].marked = true
+	return s.blobs[i].bytes, true
+}
+
 // Pin gives the blob of this name one more pin; it tells if it is held.
 func (s *Shard) Pin(name string) bool {
 	i := s.find(name)

@@ -119,6 +119,30 @@ func TestAllPinned(t *testing.T) {
 	check(t, s, "aa*! bb! ", 4)
 }
 
+func TestRead(t *testing.T) {
+	s := New(6)
+	s.Store("one", "aa")
+	s.Store("none", "")
+	for name, want := range map[string]string{"one": "aa", "none": ""} {
+		if got, held := s.Read(name); got != want || !held {
+			t.Errorf("Read(%q) = %q, %v, want %q", name, got, held, want)
+		}
+	}
+	check(t, s, "one* none*", 2)
+	if got, held := s.Read("two"); got != "" || held {
+		t.Errorf("Read of a blob that is not held: %q, %v", got, held)
+	}
+}
+
+func TestHolds(t *testing.T) {
+	s := New(6)
+	store(t, s, api.Stored, "aa", "")
+	if !s.Holds("aa") || !s.Holds("") || s.Holds("bb") {
+		t.Errorf("Holds: %v, %v, %v", s.Holds("aa"), s.Holds(""), s.Holds("bb"))
+	}
+	check(t, s, "aa ", 2)
+}
+
 func TestPinOfWhatIsNotHeld(t *testing.T) {
 	s := New(4)
 	store(t, s, api.Stored, "aa")
