@@ -181,3 +181,20 @@ func TestCloseDropsTheRestAlone(t *testing.T) {
 	check(t, d, 0, "aa", "bb")
 	take(t, d, 0, "")
 }
+
+// A lease that a Release has ended stays so, though nobody hears the reply; ahead
+// of the item it is not ended.
+func TestCloseOfAConnectionThatReleases(t *testing.T) {
+	for steps, want := range map[string]string{"": "aaaa!", "1": "aaaa!", "12": "aaaa"} {
+		d := talk(t, 1, 10, 2)
+		bulk(t, d, []int{1}, "aaaa")
+		ask(t, d, 0, api.Find, "\x05"+list(t, "aaaa"), 1, "\x01\x00\x00\x00\x01\x01\x01")
+		feed(t, d, 1, asks(api.Release, 1, "\x00\x00\x00\x01"), api.OK)
+		serve(t, d, len(steps), -1, len(steps))
+		d.Close(1)
+		check(t, d, 0, want)
+		look(t, d, 0, strings.Count(want, "!"), 0, 2)
+		serve(t, d, 9, -1, 0)
+		take(t, d, 1, "")
+	}
+}

@@ -19,6 +19,7 @@ type Depot struct {
 	leases  lease.Book
 	actions action.Book
 	now     int
+	turn    int // one more than the number of the connection that took a step last by Serve
 }
 
 // Name tells a blob's name (P3).
@@ -74,7 +75,20 @@ func (d *Depot) Pick(conn int) (int, api.Errno) {
 }
 
 // Serve lets connections take steps in turn (P11).
-func (d *Depot) Serve(steps int, stop int) int { return 0 }
+func (d *Depot) Serve(steps int, stop int) int {
+	stopped := make(chan struct{})
+	taken := 0
+	for taken < steps {
+		if taken == stop {
+			close(stopped)
+		}
+		if isClosed(stopped) || !d.stepInTurn() {
+			break
+		}
+		taken++
+	}
+	return taken
+}
 
 // Take takes bytes that go out (P6).
 func (d *Depot) Take(conn int, most int) (string, api.Errno) {

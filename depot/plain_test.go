@@ -20,6 +20,7 @@ type plain struct {
 	begun   int
 	now     int
 	conns   []*plainConn
+	last    int // the connection that took a step last by serve, or -1
 }
 
 type plainLease struct {
@@ -43,7 +44,7 @@ type plainJob struct {
 }
 
 func newPlain(shards, room int) *plain {
-	return &plain{room: room, rings: make([][]string, shards), marked: map[string]bool{}, bytes: map[string]string{}}
+	return &plain{room: room, rings: make([][]string, shards), marked: map[string]bool{}, bytes: map[string]string{}, last: -1}
 }
 
 func number(s string) int {
@@ -214,6 +215,33 @@ func (p *plain) pick(c *plainConn) int {
 		c.job = nil
 		return 3
 	}
+}
+
+func (p *plain) serve(steps, stop int) int {
+	taken := 0
+	for taken < steps && (stop < 0 || taken < stop) && p.turn() {
+		taken++
+	}
+	return taken
+}
+
+// turn lets the next one in turn take a step, if there is one.
+func (p *plain) turn() bool {
+	var behind, ahead []int
+	for k := range p.conns {
+		if k > p.last {
+			behind = append(behind, k)
+		} else {
+			ahead = append(ahead, k)
+		}
+	}
+	for _, k := range append(behind, ahead...) {
+		if p.pick(p.conns[k]) != 0 {
+			p.last = k
+			return true
+		}
+	}
+	return false
 }
 
 func (p *plain) begin(c *plainConn) int {

@@ -1,6 +1,7 @@
 package depot_test
 
 import (
+	"math"
 	"math/rand"
 	"slices"
 	"strconv"
@@ -107,6 +108,8 @@ func (s *script) call() {
 		s.p.tick(ticks)
 	case n < 33:
 		s.bulk()
+	case n < 45:
+		s.serve()
 	default:
 		got, e := s.d.Pick(c)
 		s.same("Pick", got, s.p.pick(s.p.conns[c]), e, api.OK)
@@ -161,6 +164,23 @@ func (s *script) feed(c int) {
 	}
 }
 
+func (s *script) serve() {
+	steps, stop := s.Intn(12)-1, s.Intn(40)-20
+	if s.Intn(8) == 0 {
+		steps = math.MaxInt
+	}
+	got := s.d.Serve(steps, stop)
+	s.same("Serve", got, s.p.serve(steps, stop), 0, 0)
+	switch {
+	case got > 0 && got == stop && got < steps:
+		s.reached["a stop"]++
+	case got > 0 && got == steps:
+		s.reached["all steps"]++
+	case got < steps && got != stop:
+		s.reached["no more steps"]++
+	}
+}
+
 func (s *script) bulk() {
 	var blobs []string
 	var want []int
@@ -193,7 +213,8 @@ func (s *script) check() {
 }
 
 func TestAgainstPlain(t *testing.T) {
-	reached := map[string]int{"ErrLong": 0, "20 leases": 0, "32 actions": 0, "0": 0, "1": 0, "2": 0, "3": 0, "4": 0}
+	reached := map[string]int{"ErrLong": 0, "20 leases": 0, "32 actions": 0, "0": 0, "1": 0, "2": 0, "3": 0, "4": 0,
+		"a stop": 0, "all steps": 0, "no more steps": 0}
 	for seed := range int64(150) {
 		r := rand.New(rand.NewSource(seed))
 		shards, room := 1+r.Intn(4), 1+r.Intn(60)
